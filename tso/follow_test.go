@@ -283,7 +283,7 @@ func TestFences(t *testing.T) {
 	}
 }
 
-// The tests by which Owens, Sarkar and Sewell tell the machine from others, and some more: whether the end can be come to.
+// Well-known small tests (n4 to n6 after Owens, Sarkar and Sewell): whether the end can be come to, and, where it is not 0 here, how many final states there are.
 func TestKnown(t *testing.T) {
 	for _, c := range []struct {
 		what, rows, cond string
