@@ -1,6 +1,10 @@
-package tso
+package buffers
 
-import "weir/api"
+import (
+	"slices"
+
+	"weir/api"
+)
 
 // small is a small step: what it waits for, and what it does beside going on.
 type small struct {
@@ -30,6 +34,7 @@ func table() [][]small {
 
 // turn is a thread of a state, at its next instruction.
 type turn struct {
+	order  Order
 	state  *api.State
 	thread int
 	op     api.Op
@@ -106,18 +111,20 @@ func (t turn) replace(v int64) {
 	t.write(v)
 }
 
-// write puts a write to the instruction's location behind those of the thread that wait.
+// write lets a write to the instruction's location wait.
 func (t turn) write(v int64) {
-	buf := t.state.Buf
-	buf[t.thread] = append(buf[t.thread], api.Write{Loc: t.op.Loc, Value: v})
+	l := t.state.Buf[t.thread]
+	t.state.Buf[t.thread] = slices.Insert(l, t.order.Place(l, t.op.Loc), api.Write{Loc: t.op.Loc, Value: v})
 }
 
-// flush lets the thread's oldest write reach memory.
-func (t turn) flush() {
-	buf := t.state.Buf
-	w := buf[t.thread][0]
-	buf[t.thread] = buf[t.thread][1:]
-	t.state.Mem[w.Loc] = w.Value
+// first is which of the thread's writes a flush takes; -1: none.
+func (t turn) first(loc int) int { return t.order.First(t.state.Buf[t.thread], loc) }
+
+// flush lets the write that it takes reach memory.
+func (t turn) flush(loc int) {
+	l, at := t.state.Buf[t.thread], t.first(loc)
+	t.state.Mem[l[at].Loc] = l[at].Value
+	t.state.Buf[t.thread] = slices.Delete(l, at, at+1)
 }
 
 // advance goes on to the instruction's next small step of so many, or behind the last one to the next instruction.
