@@ -59,7 +59,7 @@ func smallProgs(t *testing.T, roll func(int) int, n int) []api.Prog {
 	return l
 }
 
-// 16.6: in all states to which small programs come.
+// 16.6: in the states to which small programs come, of each the first 2000.
 func TestDiamond(t *testing.T) {
 	roll := dice(166)
 	pairs := map[int]int{}
