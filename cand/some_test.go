@@ -126,10 +126,11 @@ func smallProgs(t *testing.T, roll func(int) int, n, most int) []api.Prog {
 func greatProgs(t *testing.T) map[string]api.Prog {
 	m := map[string]api.Prog{
 		"all": all(t), "tries": tries(t),
-		"tries that fail": of(t, "0:EAX=3; 0:EBX=5", strings.Repeat("LOCK CMPXCHG [x],EBX;", 31)),
-		"loads":           of(t, "", strings.Repeat("MOV EAX,[x];", 31), strings.Repeat("MOV [x],$1;", 32)),
-		"sums":            of(t, "0:EAX=1; 1:EAX=2", strings.Repeat("LOCK XADD [x],EAX;", 15), strings.Repeat("LOCK XADD [x],EAX;", 16)),
-		"swaps":           of(t, "", strings.Repeat("XCHG [x],EAX;", 15), strings.Repeat("XCHG [y],EAX;", 16)),
+		"tries that fail":            of(t, "0:EAX=3; 0:EBX=5", strings.Repeat("LOCK CMPXCHG [x],EBX;", 31)),
+		"tries of threads that fail": of(t, "0:EAX=3; 0:EBX=5; 1:EAX=3; 1:EBX=6; 2:EAX=3", strings.Repeat("LOCK CMPXCHG [x],EBX;", 6), strings.Repeat("LOCK CMPXCHG [x],EBX;", 6), strings.Repeat("LOCK CMPXCHG [x],EBX;", 6)),
+		"loads":                      of(t, "", strings.Repeat("MOV EAX,[x];", 31), strings.Repeat("MOV [x],$1;", 32)),
+		"sums":                       of(t, "0:EAX=1; 1:EAX=2", strings.Repeat("LOCK XADD [x],EAX;", 15), strings.Repeat("LOCK XADD [x],EAX;", 16)),
+		"swaps":                      of(t, "", strings.Repeat("XCHG [x],EAX;", 15), strings.Repeat("XCHG [y],EAX;", 16)),
 	}
 	var words, settings []string
 	for i := range 16 {

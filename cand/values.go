@@ -41,7 +41,7 @@ func (l layout) chosen(from []int) (*finder, bool) {
 	return f, f.look()
 }
 
-// look looks for all values; false: one hangs on itself, or a try does not agree, and whatever is chosen further on can't mend it.
+// look looks for all values; false: one hangs on itself, or a try can't agree, and whatever is chosen further on can't mend it.
 func (f *finder) look() bool {
 	clear(f.stands)
 	for place := range f.events {
@@ -50,12 +50,22 @@ func (f *finder) look() bool {
 		}
 	}
 	for _, t := range f.tries {
-		eax, s := f.add(t.eax)
-		if max(s, f.stands[t.read]) == found && (f.values[t.read] != eax) != t.fails {
+		if eax, s := f.add(t.eax); s == found && !f.agrees(t, eax) {
 			return false
 		}
 	}
 	return true
+}
+
+// agrees tells whether a try agrees, or still may: by the write that it reads from, or by one of all those from which it can be chosen to read. (So a set of fails that can't be is left early, and not behind all choices for the reads ahead.)
+func (f *finder) agrees(t try, eax int64) bool {
+	from := f.writes[f.events[t.read].Loc]
+	if w := f.from[t.read]; w >= 0 {
+		from = []int{w}
+	}
+	return slices.ContainsFunc(from, func(w int) bool {
+		return f.stands[w] == open || (f.values[w] != eax) == t.fails
+	})
 }
 
 // find looks for the value of an event.
